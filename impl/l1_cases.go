@@ -19,11 +19,11 @@ const (
 // restTarget is the target of all keys without a case.
 const restTarget target = 'z'
 
-// What a text lacks that is no switch.
+// Why a text is no switch.
 var (
 	errNoTarget = errors.New("no target")
 	errNoRest   = errors.New("no rest")
-	errManyMore = errors.New("too many cases")
+	errTooMany  = errors.New("too many cases")
 	errLeftOver = errors.New("text left over")
 )
 
@@ -216,7 +216,7 @@ func readSwitch(text string) (Switch, error) {
 	for part := range partsOf(front) {
 		// A long text is not worth reading on.
 		if len(s.Cases) == MaxCases {
-			return Switch{}, errManyMore
+			return Switch{}, errTooMany
 		}
 		c, err := readCase(part)
 		if err != nil {
