@@ -348,19 +348,21 @@ func useAll(s impl.Switch) {
 	impl.TotalWeight(s)
 }
 
-func TestArgumentsStayAsTheyAre(t *testing.T) {
-	for _, s := range []impl.Switch{
-		read(t, "0-3a5,7b2;1"),
-		both(impl.Case{Low: 9, High: 9, Target: "a", Weight: 1}, impl.Case{Low: 0, High: 1, Target: "b", Weight: 1}),
-	} {
-		mark := impl.Case{Low: 21, High: 22, Target: "g", Weight: 23}
-		memory := append(slices.Clone(s.Cases), mark, mark)
-		before := slices.Clone(memory)
-		useAll(impl.Switch{Cases: memory[:len(s.Cases)], Rest: s.Rest})
-		if !slices.Equal(memory, before) {
-			t.Errorf("the cases have become %v, were %v", memory, before)
-		}
+// checkStays reports a use of a switch that changes its cases, or memory behind them.
+func checkStays(t *testing.T, s impl.Switch, use func(s impl.Switch)) {
+	t.Helper()
+	mark := impl.Case{Low: 21, High: 22, Target: "g", Weight: 23}
+	memory := append(slices.Clone(s.Cases), mark, mark)
+	before := slices.Clone(memory)
+	use(impl.Switch{Cases: memory[:len(s.Cases)], Rest: s.Rest})
+	if !slices.Equal(memory, before) {
+		t.Errorf("the cases have become %v, were %v", memory, before)
 	}
+}
+
+func TestArgumentsStayAsTheyAre(t *testing.T) {
+	checkStays(t, read(t, "0-3a5,7b2;1"), useAll)
+	checkStays(t, both(impl.Case{Low: 9, High: 9, Target: "a", Weight: 1}, impl.Case{Low: 0, High: 1, Target: "b", Weight: 1}), useAll)
 }
 
 func TestResultsShareNoMemory(t *testing.T) {
