@@ -47,6 +47,9 @@ type target byte
 // ofCase reports whether a case may have the target.
 func (t target) ofCase() bool { return 'a' <= t && t <= 'h' }
 
+// valid reports whether keys may be led to the target.
+func (t target) valid() bool { return t.ofCase() || t == restTarget }
+
 // text returns the target as a string of one byte.
 func (t target) text() string { return string([]byte{byte(t)}) }
 
