@@ -70,11 +70,7 @@ func (c Case) width() int { return c.High - c.Low + 1 }
 
 // text returns what stands for the case in the text of a switch.
 func (c Case) text() string {
-	text := strconv.Itoa(c.Low)
-	if c.High != c.Low {
-		text += "-" + strconv.Itoa(c.High)
-	}
-	return text + c.Target + strconv.Itoa(c.Weight)
+	return rangeText(c.Low, c.High) + c.Target + strconv.Itoa(c.Weight)
 }
 
 // SwitchValid reports whether a switch is valid.
@@ -177,6 +173,15 @@ func isKey(n int) bool { return 0 <= n && n <= MaxKey }
 
 // isWeight reports whether a number is a weight.
 func isWeight(n int) bool { return 0 <= n && n <= MaxWeight }
+
+// rangeText returns two numbers with `-` between them, or one if they are the
+// same.
+func rangeText(first, last int) string {
+	if first == last {
+		return strconv.Itoa(first)
+	}
+	return strconv.Itoa(first) + "-" + strconv.Itoa(last)
+}
 
 // sum returns all numbers together.
 func sum(numbers ...int) int {
